@@ -5,6 +5,7 @@ import (
 	"regexp"
 	"strings"
 	"testing"
+	"unsafe"
 
 	"counterfoil/api"
 )
@@ -181,4 +182,14 @@ func TestP6_3(t *testing.T) {
 	}
 	near(shown)
 	pieces(shown)
+}
+
+// What is answered is new memory (rule R4), even where nothing had to be changed.
+func TestAnswersAreNew(t *testing.T) {
+	for _, s := range []string{"#abc012", "#ABC012", "#000000", "", "red"} {
+		one, two := Clean(s), Clean(s)
+		if unsafe.StringData(one) == unsafe.StringData(two) || unsafe.StringData(one) == unsafe.StringData(s) {
+			t.Errorf("Clean(%q) answers memory that is not new", s)
+		}
+	}
 }
