@@ -2,6 +2,7 @@
 package fresh
 
 import (
+	"slices"
 	"strings"
 
 	"counterfoil/api"
@@ -22,7 +23,7 @@ func Ctl(c api.Ctl) api.Ctl {
 
 // Ctls copies one by one: no two states of the answer share memory, even if those of the list do.
 func Ctls(list []api.Ctl) []api.Ctl {
-	var own []api.Ctl
+	own := slices.Grow([]api.Ctl(nil), len(list))
 	for _, c := range list {
 		own = append(own, Ctl(c))
 	}
