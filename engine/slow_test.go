@@ -822,8 +822,8 @@ func checkSettled(t *testing.T, w *World) {
 	}
 }
 
-// TestDrawn holds drawn worlds, step by step, against the chapter's words.
-func TestDrawn(t *testing.T) {
+// TestP25_6Drawn holds drawn worlds, step by step, against the chapter's words, and what is so behind each step.
+func TestP25_6Drawn(t *testing.T) {
 	counts := map[string]int{}
 	errors := map[string]int{}
 	for seed := range int64(3000) {
